@@ -87,7 +87,8 @@ func TestImports(t *testing.T) {
 	for _, s := range sources(t) {
 		for _, i := range s.file.Imports {
 			path, err := strconv.Unquote(i.Path.Value)
-			if err != nil || !mayImport(s.layer, path) || i.Name != nil {
+			renamed := i.Name != nil && narrow[path] != nil
+			if err != nil || !mayImport(s.layer, path) || renamed {
 				t.Errorf("%s imports %s", s.path, i.Path.Value)
 			}
 		}
