@@ -284,6 +284,29 @@ func TestText(t *testing.T) {
 	checkText(t, "blanks", New(1000, 2), "", "")
 }
 
+// Blanks ahead of a last cell that is none of them are told, whether the row goes on or not.
+func TestTextAheadOfTheEnd(t *testing.T) {
+	for _, last := range []row.Cell{{Rune: ' ', Part: row.Filler}, {Rune: ' ', Style: 3, Part: row.Filler}, {Rune: '中', Part: row.Right}, {Rune: ' ', Part: 4}, {Rune: ' ', Part: -1}} {
+		for _, on := range []bool{false, true} {
+			g := New(4, 3)
+			space, a := row.Cell{Rune: ' '}, row.Cell{Rune: 'a'}
+			g.Set(0, row.Row{Cells: []row.Cell{a, a, space, last}, Wrapped: on})
+			g.Set(1, row.Row{Cells: []row.Cell{a, space, space, last}, Wrapped: on})
+			g.Set(2, row.Row{Cells: []row.Cell{space, space, space, last}, Wrapped: on})
+			checkText(t, strconv.Itoa(last.Part), g, "aa ", "a  ", "   ")
+		}
+	}
+	g := New(4, 2)
+	g.Set(0, row.Blank(4, 0).Fill(0).Put(0, 0, 0))
+	g.Set(1, row.Blank(4, 0).Fill(0).Put(0, 'a', 0))
+	checkText(t, "filled", g, "   ", "a  ")
+	// Where a blank is the last cell, it is told in a row that goes on alone.
+	a := row.Blank(4, 0).Put(0, 'a', 0)
+	g.Set(0, a)
+	g.Set(1, row.Row{Cells: a.Cells, Wrapped: true})
+	checkText(t, "blanks", g, "a", "a   ")
+}
+
 // model is a grid in another way: rows alone, moved one at a time.
 type model struct {
 	w    int

@@ -182,15 +182,15 @@ func plainResize(r Row, w int) Row {
 	})
 }
 
-// plainGlyphs takes blanks away from the end, one by one.
+// plainGlyphs goes from the right: what comes of blanks is left out as long as nothing else came.
 func plainGlyphs(r Row) []Glyph {
-	l := slices.DeleteFunc(slices.Clone(r.Cells), func(c Cell) bool { return c.Part != 0 && c.Part != 1 })
-	for !r.Wrapped && len(l) > 0 && l[len(l)-1] == plainBlank(0) {
-		l = l[:len(l)-1]
-	}
 	var told []Glyph
-	for _, c := range l {
-		told = append(told, Glyph{c.Rune, c.Style})
+	began := r.Wrapped
+	for _, c := range slices.Backward(r.Cells) {
+		began = began || c.Rune != 0x20 || c.Style != 0 || c.Part != 0
+		if began && (c.Part == 0 || c.Part == 1) {
+			told = slices.Insert(told, 0, Glyph{c.Rune, c.Style})
+		}
 	}
 	return told
 }
@@ -447,7 +447,7 @@ func TestGlyphs(t *testing.T) {
 		{"中1L 中1R a0", []Glyph{{cjk, 1}, {'a', 0}}}, {"a0 _0 b0 _0 _0", []Glyph{{'a', 0}, {' ', 0}, {'b', 0}}}, {"_0 a0", []Glyph{{' ', 0}, {'a', 0}}},
 		{"a0 _0 _0 +", []Glyph{{'a', 0}, {' ', 0}, {' ', 0}}}, {"_0 +", []Glyph{{' ', 0}}},
 		{"a0 _1", []Glyph{{'a', 0}, {' ', 1}}}, {"a0 _0 _1 _0", []Glyph{{'a', 0}, {' ', 0}, {' ', 1}}}, {"_1 _0", []Glyph{{' ', 1}}},
-		{"a0 _3F +", []Glyph{{'a', 0}}}, {"a0 _3F", []Glyph{{'a', 0}}}, {"a0 _0 _3F +", []Glyph{{'a', 0}, {' ', 0}}}, {"a0 _0 _0F", []Glyph{{'a', 0}}},
+		{"a0 _3F +", []Glyph{{'a', 0}}}, {"a0 _3F", []Glyph{{'a', 0}}}, {"a0 _0 _3F +", []Glyph{{'a', 0}, {' ', 0}}},
 		{"_0F +", nil}, {"中1L 中1R _0", []Glyph{{cjk, 1}}}, {"中1R a0L", []Glyph{{'a', 0}}}, {"a14 b1-1 c1", []Glyph{{'c', 1}}},
 		// A blank is a Single: half a rune that shows a space is none.
 		{"a0 _0L _0R _0", []Glyph{{'a', 0}, {' ', 0}}}, {"a0 _04", []Glyph{{'a', 0}}},
@@ -459,6 +459,33 @@ func TestGlyphs(t *testing.T) {
 	odd := Row{Cells: []Cell{{math.MinInt32, math.MinInt, Single}, {math.MaxInt32, math.MaxInt, Left}, {' ', 1 << 32, Single}}}
 	if got := odd.Glyphs(); !slices.Equal(got, []Glyph{{math.MinInt32, math.MinInt}, {math.MaxInt32, math.MaxInt}, {' ', 1 << 32}}) {
 		t.Errorf("%#v", got)
+	}
+}
+
+// Blanks are left out at the row's end alone: ahead of a last cell that is none of them they stay, in a row that goes on and in one that doesn't.
+func TestGlyphsAheadOfTheEnd(t *testing.T) {
+	for _, last := range []string{"_0F", "_3F", "a0F", "_0R", "中1R", "_04", "_0-1", "a2100"} {
+		for n := range 5 {
+			for _, on := range []string{"", " +"} {
+				blanks := slices.Repeat([]Glyph{{' ', 0}}, n)
+				for r, want := range map[string][]Glyph{strings.Repeat("_0 ", n) + last: blanks, "a1 " + strings.Repeat("_0 ", n) + last: append([]Glyph{{'a', 1}}, blanks...)} {
+					if got := of(r + on).Glyphs(); !slices.Equal(got, want) {
+						t.Errorf("%s: %#v", r+on, got)
+					}
+				}
+			}
+		}
+	}
+	// Blanks behind that cell are at the end again.
+	if got := of("_0 _0F _0 _0").Glyphs(); !slices.Equal(got, []Glyph{{' ', 0}}) {
+		t.Errorf("%#v", got)
+	}
+	// As calls make such a row: it was filled, and then nothing was put.
+	for n := 1; n < 5; n++ {
+		r := Blank(n+1, 0).Fill(0).Put(0, 0, 0)
+		if got := r.Glyphs(); r.Wrapped || !slices.Equal(got, slices.Repeat([]Glyph{{' ', 0}}, n)) {
+			t.Errorf("%d: %#v", n, got)
+		}
 	}
 }
 
